@@ -213,7 +213,7 @@ func TestGreatest(t *testing.T) {
 				n, e := Gain(g, labels, v, l)
 				wantGain(t, "Gain", n, e, plainGain(all, labels, v, l))
 			}
-			for _, bound := range []int{1, 2, 7, 40, 100, 520, api.MaxVertices - 1, api.MaxVertices} {
+			for _, bound := range []int{1, 7, 100, 520, api.MaxVertices} {
 				better, moves, e := Improve(g, labels, bound, api.MaxItems)
 				if slices.Max(sizes) > bound {
 					wantNone(t, "Improve", better, moves, e, api.ErrBound)
