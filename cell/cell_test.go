@@ -7,11 +7,12 @@ import (
 
 	"flyover/api"
 	"flyover/nest"
+	"flyover/plain"
 )
 
 // Promises 12.1 to 12.3: the chapter's example.
 func TestExample(t *testing.T) {
-	g, n := three(), cells([]int{2}, []int{0, 0, 1})
+	g, n := three(), plain.Cells([]int{2}, []int{0, 0, 1})
 	l, e := Boundary(g, n, 1, 0)
 	wantList(t, "Boundary of 0", l, e, 0, 1)
 	l, e = Boundary(g, n, 1, 1)
@@ -79,7 +80,7 @@ func TestStaleLevels(t *testing.T) {
 		{[]int{10, 8, 4}, [][]int{{3, 4}, {1, 2}, {0, 1}}},
 		{[]int{4, 8, 10, 8, 4}, [][]int{{3, 4}, {1, 2}, {0, 1}}},
 		{[]int{8, 3, 2, 1, 0}, [][]int{{0, 1, 4}, {0, 1, 2}, {0, 1}}},
-		{count(11), [][]int{{0, 1, 3, 4}, {0, 1, 2}, {0, 1}}},
+		{plain.Count(11), [][]int{{0, 1, 3, 4}, {0, 1, 2}, {0, 1}}},
 	} {
 		all, e := Stale(g, n, x.arcs)
 		wantLists(t, "Stale", all, e, x.want...)
@@ -89,7 +90,7 @@ func TestStaleLevels(t *testing.T) {
 // Promises 12.1 to 12.3: all graphs of up to three vertices with all nests of up to two levels, and all sets of few arcs.
 func TestAll(t *testing.T) {
 	for n := 1; n < 4; n++ {
-		for _, x := range allNests(n) {
+		for _, x := range plain.Nests(n) {
 			for _, g := range allGraphs(n) {
 				wantPlain(t, g, x)
 				for set := range 1 << min(len(g.Arcs), 4) {
@@ -108,11 +109,11 @@ func TestAll(t *testing.T) {
 
 // Promises 12.1 to 12.3: of nests that were drawn and of nests that were made.
 func TestAgainstPlain(t *testing.T) {
-	draw := noise()
+	draw := plain.Noise()
 	for n := 1; n < 30; n++ {
 		for range 4 {
 			g := drawn(draw, n, draw(3*n+1))
-			wantPlain(t, g, drawnNest(draw, n, 1+draw(api.MaxLevels)))
+			wantPlain(t, g, plain.Nest(draw, n, 1+draw(api.MaxLevels)))
 			made, e := nest.Make(g, []int{1 + n/4, 2 + n/2, n + 2}, []int{draw(n), draw(n)}, draw(5))
 			wantOK(t, "Make", e)
 			wantPlain(t, g, made)
@@ -137,7 +138,7 @@ func wantPlain(t *testing.T, g api.Graph, n api.Nest) {
 		}
 	}
 	wantStale(t, g, n, nil)
-	wantStale(t, g, n, count(len(g.Arcs)))
+	wantStale(t, g, n, plain.Count(len(g.Arcs)))
 	for id := range g.Arcs {
 		wantStale(t, g, n, []int{id})
 	}
@@ -176,11 +177,11 @@ func wantStale(t *testing.T, g api.Graph, n api.Nest, arcs []int) {
 
 // Promise 12.4: what follows, from the answers alone.
 func TestFollows(t *testing.T) {
-	draw := noise()
+	draw := plain.Noise()
 	for n := 1; n < 30; n++ {
 		for range 4 {
 			g := drawn(draw, n, draw(4*n+1))
-			x := drawnNest(draw, n, 1+draw(api.MaxLevels))
+			x := plain.Nest(draw, n, 1+draw(api.MaxLevels))
 			for at := range x.Cells {
 				wantOuterJoinsBoundaries(t, g, x, at+1)
 				for cell := range plainMany(x, at+1) {
@@ -251,10 +252,10 @@ func wantParted(t *testing.T, g api.Graph, n api.Nest, level, cell int) {
 
 // Promises 12.1 to 12.3, P1: the greatest graphs, and as many arcs as there may be.
 func TestGreatest(t *testing.T) {
-	draw := noise()
+	draw := plain.Noise()
 	for _, g := range greatGraphs() {
-		single := cells([]int{1, 2, 3, 4, 1024}, count(g.N), count(g.N), count(g.N), count(g.N), make([]int, g.N))
-		for _, n := range []api.Nest{single, drawnNest(draw, g.N, 5), drawnNest(draw, g.N, 1)} {
+		single := plain.Cells([]int{1, 2, 3, 4, 1024}, plain.Count(g.N), plain.Count(g.N), plain.Count(g.N), plain.Count(g.N), make([]int, g.N))
+		for _, n := range []api.Nest{single, plain.Nest(draw, g.N, 5), plain.Nest(draw, g.N, 1)} {
 			for at := range n.Cells {
 				many := plainMany(n, at+1)
 				wantCell(t, g, n, at+1, 0)
@@ -292,19 +293,19 @@ func wantGreatStale(t *testing.T, g api.Graph, n api.Nest, arcs []int) {
 // Promises 12.1, 12.2, R1, R2, R5: levels, cells and vertices that there are not.
 func TestWrongPlaces(t *testing.T) {
 	g, three := ladder()
-	for _, n := range []api.Nest{three, cells([]int{1}, count(8)), cells([]int{3, 8}, three.Cells[0], make([]int, 8))} {
-		for _, level := range append(wrongNumbers(), 0, len(n.Bounds)+1, 5, 6) {
+	for _, n := range []api.Nest{three, plain.Cells([]int{1}, plain.Count(8)), plain.Cells([]int{3, 8}, three.Cells[0], make([]int, 8))} {
+		for _, level := range append(plain.WrongNumbers(), 0, len(n.Bounds)+1, 5, 6) {
 			l, e := Outer(g, n, level)
 			wantNothing(t, "Outer", l, e, api.ErrLevel)
-			for _, cell := range append(wrongNumbers(), 0, 1) {
+			for _, cell := range append(plain.WrongNumbers(), 0, 1) {
 				wantRefusedPlace(t, g, n, level, cell, api.ErrLevel)
 			}
 		}
 		for at := range n.Cells {
-			for _, cell := range append(wrongNumbers(), plainMany(n, at+1), g.N) {
+			for _, cell := range append(plain.WrongNumbers(), plainMany(n, at+1), g.N) {
 				wantRefusedPlace(t, g, n, at+1, cell, api.ErrCell)
 			}
-			for _, v := range append(wrongNumbers(), g.N) {
+			for _, v := range append(plain.WrongNumbers(), g.N) {
 				place, e := Index(g, n, at+1, 0, v)
 				wantNoNumber(t, "Index", place, e, api.ErrNone)
 			}
@@ -321,7 +322,7 @@ func wantRefusedPlace(t *testing.T, g api.Graph, n api.Nest, level, cell int, wa
 	wantNothing(t, "Inner", l, e, want)
 	l, e = Between(g, n, level, cell)
 	wantNothing(t, "Between", l, e, want)
-	for _, v := range append(wrongNumbers(), 0, 1) {
+	for _, v := range append(plain.WrongNumbers(), 0, 1) {
 		place, e := Index(g, n, level, cell, v)
 		wantNoNumber(t, "Index", place, e, want)
 	}
@@ -330,7 +331,7 @@ func wantRefusedPlace(t *testing.T, g api.Graph, n api.Nest, level, cell int, wa
 // Promise 12.3, R1, R5: arcs that there are not, and too many of them, whatever they are.
 func TestStaleRefuses(t *testing.T) {
 	g, n := ladder()
-	for _, wrong := range append(wrongNumbers(), len(g.Arcs)) {
+	for _, wrong := range append(plain.WrongNumbers(), len(g.Arcs)) {
 		for _, arcs := range [][]int{{wrong}, {0, 1, wrong}, {wrong, 0}, {wrong, wrong}, append(make([]int, api.MaxItems-1), wrong)} {
 			all, e := Stale(g, n, arcs)
 			wantNothing(t, "an arc that is none", all, e, api.ErrNone)
@@ -346,37 +347,10 @@ func TestStaleRefuses(t *testing.T) {
 	wantLists(t, "as many as there may be", all, e, []int{0}, []int{0}, []int{0})
 }
 
-// R1, R2, R5: all calls answer what chapter 11's Check refuses, ahead of what else is wrong.
-func TestWrongNests(t *testing.T) {
-	g := ends(4, 0, 1, 1, 2, 3, 3)
-	whole, halves := make([]int, 4), []int{0, 0, 1, 1}
-	for _, n := range []api.Nest{
-		{}, {Bounds: []int{4}}, {Cells: [][]int{whole}}, cells([]int{1, 2, 3, 4, 5, 6}, count(4), count(4), count(4), count(4), count(4), count(4)),
-		cells([]int{0}, whole), cells([]int{api.MaxVertices + 1}, whole), cells([]int{2, 2}, halves, halves), cells([]int{2, 4, 3}, halves, whole, whole),
-		cells([]int{4}, nil), cells([]int{4}, whole[1:]), cells([]int{4}, []int{0, 2, 1, 1}), cells([]int{4}, []int{0, -1, 0, 0}), cells([]int{4, 5}, whole, make([]int, 5)),
-		cells([]int{4}, make([]int, api.MaxItems+1)), cells([]int{3}, whole), cells([]int{2, 3}, halves, whole), cells([]int{2, 3}, halves, []int{0, 1, 1, 1}),
-		cells([]int{2, 3, 4}, halves, halves, []int{0, 0, 0, 1}),
-	} {
-		_, want := nest.Check(g, n)
-		if want == api.OK {
-			t.Fatal(n)
-		}
-		wantRefused(t, g, n, want)
-	}
-}
-
-// R1, R2, R5: all calls answer what chapter 3's Check refuses, ahead of what else is wrong.
-func TestWrongGraphs(t *testing.T) {
-	for _, x := range []struct {
-		g    api.Graph
-		want api.Errno
-	}{
-		{api.Graph{}, api.ErrRange}, {api.Graph{N: math.MinInt}, api.ErrRange}, {api.Graph{N: api.MaxVertices + 1}, api.ErrRange}, {api.Graph{N: math.MaxInt}, api.ErrRange},
-		{api.Graph{N: 2, Arcs: make([]api.Arc, api.MaxArcs+1)}, api.ErrLong}, {ends(2, 0, 1, 0, 2), api.ErrArc}, {ends(2, -1, 0), api.ErrArc}, {ends(2, math.MaxInt, math.MinInt), api.ErrArc},
-	} {
-		for _, n := range []api.Nest{{}, cells([]int{2}, []int{0, 0}), cells([]int{1}, []int{0, 1}), cells([]int{0}, []int{0, 1}), cells([]int{2, 3}, []int{0, 0}, []int{0, 1}), cells([]int{1024}, make([]int, 1025))} {
-			wantRefused(t, x.g, n, x.want)
-		}
+// R1, R2, R5: all calls answer what chapter 3's Check refuses, then what chapter 11's Check refuses, ahead of what else is wrong.
+func TestWrongGraphsAndNests(t *testing.T) {
+	for _, x := range append(plain.WrongGraphs(), plain.WrongNests()...) {
+		wantRefused(t, x.G, x.N, x.Want)
 	}
 }
 
@@ -415,10 +389,10 @@ func answers(t *testing.T, g api.Graph, n api.Nest, level, cell int, arcs []int)
 
 // The chapter's Ways: nothing can be put behind a list into its memory.
 func TestListsAreCut(t *testing.T) {
-	draw := noise()
+	draw := plain.Noise()
 	for n := 1; n < 60; n++ {
 		g := drawn(draw, n, draw(5*n))
-		x := drawnNest(draw, n, 1+draw(api.MaxLevels))
+		x := plain.Nest(draw, n, 1+draw(api.MaxLevels))
 		level := 1 + draw(len(x.Cells))
 		lists, all := answers(t, g, x, level, draw(plainMany(x, level)), drawnList(draw, draw(9), len(g.Arcs)))
 		for _, l := range lists {
@@ -489,7 +463,7 @@ func TestMemory(t *testing.T) {
 
 // R3: a list without a member may be nil or empty.
 func TestEmptyLists(t *testing.T) {
-	n := cells([]int{2, 3}, []int{0, 0, 1}, []int{0, 0, 0})
+	n := plain.Cells([]int{2, 3}, []int{0, 0, 1}, []int{0, 0, 0})
 	for _, none := range [][]api.Arc{nil, {}} {
 		for _, arcs := range [][]int{nil, {}} {
 			g := api.Graph{N: 3, Arcs: none}
@@ -499,21 +473,21 @@ func TestEmptyLists(t *testing.T) {
 			all, e = Stale(three(), n, arcs)
 			wantLists(t, "Stale", all, e, nil, nil)
 		}
-		wantRefused(t, three(), cells([]int{2}, nil), api.ErrLabel)
-		wantRefused(t, three(), cells([]int{2}, []int{}), api.ErrLabel)
+		wantRefused(t, three(), plain.Cells([]int{2}, nil), api.ErrLabel)
+		wantRefused(t, three(), plain.Cells([]int{2}, []int{}), api.ErrLabel)
 	}
 }
 
 // R7: the same call tells the same, whatever was called ahead, and whatever room lies behind the lists.
 func TestTellsTheSame(t *testing.T) {
-	draw := noise()
+	draw := plain.Noise()
 	for range 40 {
 		n := 4 + draw(60)
-		g, x := drawn(draw, n, 3*n), drawnNest(draw, n, 3)
+		g, x := drawn(draw, n, 3*n), plain.Nest(draw, n, 3)
 		arcs, cell := drawnList(draw, 5, 3*n), draw(plainMany(x, 2))
 		first, _ := answers(t, g, x, 2, cell, arcs)
 		for range 5 {
-			answers(t, drawn(draw, n, n), drawnNest(draw, n, 2), 2, 0, []int{draw(n)})
+			answers(t, drawn(draw, n, n), plain.Nest(draw, n, 2), 2, 0, []int{draw(n)})
 			h := api.Graph{N: n, Arcs: slices.Grow(slices.Clone(g.Arcs), 1+draw(9))}
 			again, _ := answers(t, h, x, 2, cell, slices.Grow(slices.Clone(arcs), 3))
 			wantLists(t, "the same again", again, api.OK, first...)
@@ -539,7 +513,7 @@ func FuzzCell(f *testing.F) {
 			for v := range labels {
 				labels[v] = int(numbers[at-n+v])
 			}
-			x.Bounds, x.Cells = append(x.Bounds, n+len(x.Bounds)), append(x.Cells, plainTidy(labels))
+			x.Bounds, x.Cells = append(x.Bounds, n+len(x.Bounds)), append(x.Cells, plain.Tidy(labels))
 		}
 		var arcs []int
 		for _, id := range ids {

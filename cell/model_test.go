@@ -1,13 +1,12 @@
 package cell
 
 import (
-	"math"
 	"slices"
 	"testing"
 	"unsafe"
 
 	"flyover/api"
-	"flyover/nest"
+	"flyover/plain"
 )
 
 // plainMembers goes through all vertices for one cell.
@@ -92,26 +91,6 @@ func plainStale(g api.Graph, n api.Nest, arcs []int) [][]int {
 	return all
 }
 
-// plainTidy is a second reading of DOC.md: from the least vertex on, a label that was not seen ahead is the next one.
-func plainTidy(labels []int) []int {
-	var seen, tidy []int
-	for _, label := range labels {
-		if !slices.Contains(seen, label) {
-			seen = append(seen, label)
-		}
-		tidy = append(tidy, slices.Index(seen, label))
-	}
-	return tidy
-}
-
-func greatestSize(labels []int) int {
-	l := make([]int, len(labels))
-	for _, label := range labels {
-		l[label]++
-	}
-	return slices.Max(l)
-}
-
 // ends takes for each arc where it begins and where it ends.
 func ends(n int, vertices ...int) api.Graph {
 	g := api.Graph{N: n}
@@ -138,16 +117,7 @@ func way(n int) api.Graph {
 // ladder is a nest of eight vertices whose cells hang on no arcs, and a graph with arcs in both directions, several between the same two, and some from a vertex to itself.
 func ladder() (api.Graph, api.Nest) {
 	g := ends(8, 2, 0, 7, 7, 1, 5, 5, 1, 4, 1, 3, 6, 0, 3, 0, 3, 6, 6, 5, 6, 4, 4)
-	return g, cells([]int{3, 4, 8}, []int{0, 1, 0, 2, 3, 1, 4, 0}, []int{0, 1, 0, 2, 1, 1, 2, 0}, []int{0, 1, 0, 0, 1, 1, 0, 0})
-}
-
-// noise answers a function that draws numbers below a bound, the same ones each time.
-func noise() func(bound int) int {
-	state := uint32(1)
-	return func(bound int) int {
-		state = state*1664525 + 1013904223
-		return int(state>>8) % bound
-	}
+	return g, plain.Cells([]int{3, 4, 8}, []int{0, 1, 0, 2, 3, 1, 4, 0}, []int{0, 1, 0, 2, 1, 1, 2, 0}, []int{0, 1, 0, 0, 1, 1, 0, 0})
 }
 
 func drawn(draw func(int) int, n, many int) api.Graph {
@@ -167,44 +137,6 @@ func drawnList(draw func(int) int, many, bound int) []int {
 		}
 	}
 	return l
-}
-
-// drawnNest is right for n vertices: the cells of a level are put together as they are drawn, neighbours or not.
-func drawnNest(draw func(int) int, n, levels int) api.Nest {
-	labels := make([]int, n)
-	for v := range labels {
-		labels[v] = v
-	}
-	var x api.Nest
-	bound := 0
-	for range levels {
-		many := slices.Max(labels) + 1
-		groups := drawnList(draw, many, 1+draw(many))
-		above := make([]int, n)
-		for v, label := range labels {
-			above[v] = groups[label]
-		}
-		labels = plainTidy(above)
-		bound = max(bound+1, greatestSize(labels))
-		x.Bounds, x.Cells = append(x.Bounds, bound), append(x.Cells, labels)
-	}
-	return x
-}
-
-// allNests are all right ones of one and of two levels of up to three vertices.
-func allNests(n int) []api.Nest {
-	all := map[int][][]int{1: {{0}}, 2: {{0, 0}, {0, 1}}, 3: {{0, 0, 0}, {0, 0, 1}, {0, 1, 0}, {0, 1, 1}, {0, 1, 2}}}[n]
-	var nests []api.Nest
-	for _, low := range all {
-		nests = append(nests, cells([]int{n}, low))
-		for _, high := range all {
-			x := cells([]int{n, n + 1}, low, high)
-			if _, e := nest.Check(api.Graph{N: n}, x); e == api.OK {
-				nests = append(nests, x)
-			}
-		}
-	}
-	return nests
 }
 
 // allGraphs are of n vertices, with each arc that may be, or without it; the arcs stand in another order in each second one.
@@ -227,28 +159,11 @@ func allGraphs(n int) []api.Graph {
 
 // greatGraphs are as great as graphs may be, in vertices, arcs or both.
 func greatGraphs() []api.Graph {
-	draw := noise()
+	draw := plain.Noise()
 	return []api.Graph{
 		way(api.MaxVertices), {N: api.MaxVertices}, {N: 1, Arcs: make([]api.Arc, api.MaxArcs)}, {N: api.MaxVertices, Arcs: make([]api.Arc, api.MaxArcs)},
 		drawn(draw, api.MaxVertices, api.MaxVertices), drawn(draw, api.MaxVertices, api.MaxArcs), drawn(draw, 90, api.MaxArcs),
 	}
-}
-
-// cells takes bounds, and of each level the cells.
-func cells(bounds []int, cells ...[]int) api.Nest { return api.Nest{Bounds: bounds, Cells: cells} }
-
-// count is 0, 1, 2 and so on.
-func count(n int) []int {
-	l := make([]int, n)
-	for i := range l {
-		l[i] = i
-	}
-	return l
-}
-
-// wrongNumbers are no vertex, level, cell or id.
-func wrongNumbers() []int {
-	return []int{math.MinInt, -1, api.MaxArcs, api.MaxItems + 1, math.MaxInt}
 }
 
 func wantOK(t *testing.T, name string, all ...api.Errno) {

@@ -7,11 +7,12 @@ import (
 
 	"flyover/api"
 	"flyover/nest"
+	"flyover/plain"
 )
 
 // Promises 13.1, 13.2, 13.4: the chapter's example.
 func TestExample(t *testing.T) {
-	g, n := three()
+	g, n := plain.Three()
 	m, e := Leaf(g, n, 0, 0, []uint32{5})
 	wantMatrix(t, "Leaf", g, n, m, e, 1, 0, 0, 0, 5, api.Inf, 0)
 	m, e = Leaf(g, n, 0, 0, nil)
@@ -29,7 +30,7 @@ func TestExample(t *testing.T) {
 // Promises 13.2 to 13.4: what is told by hand of three levels.
 func TestLevels(t *testing.T) {
 	const no = api.Inf
-	g, n := rounds()
+	g, n := plain.Rounds()
 	below := map[[2]int]api.Matrix{}
 	for _, x := range []struct {
 		level, cell int
@@ -63,19 +64,19 @@ func wantPlain(t *testing.T, g, h api.Graph, n api.Nest, epoch int) {
 	t.Helper()
 	right := plainLevels(h, n, epoch)
 	for at := range n.Cells {
-		for cell := range plainMany(n, at+1) {
+		for cell := range plain.Many(n, at+1) {
 			level := at + 1
 			m, e := Whole(g, n, level, cell, epoch)
-			wantMatrix(t, "Whole", g, n, m, e, level, cell, epoch, plainWhole(g, n, level, cell)...)
+			wantMatrix(t, "Whole", g, n, m, e, level, cell, epoch, plain.Whole(g, n, level, cell)...)
 			m, e = Whole(h, n, level, cell, epoch)
 			wantMatrix(t, "Whole", h, n, m, e, level, cell, epoch, right[at][cell].D...)
 			if level == 1 {
-				m, e = Leaf(g, n, cell, epoch, plainWeights(h, plainInner(g, n, 1, cell)))
+				m, e = Leaf(g, n, cell, epoch, plain.Weights(h, plain.Inner(g, n, 1, cell)))
 				wantMatrix(t, "Leaf", g, n, m, e, 1, cell, epoch, right[at][cell].D...)
 				continue
 			}
-			children := chosen(right[at-1], plainChildren(n, level, cell))
-			m, e = Up(g, n, level, cell, epoch, plainWeights(h, plainBetween(g, n, level, cell)), children)
+			children := plain.Chosen(right[at-1], plain.Children(n, level, cell))
+			m, e = Up(g, n, level, cell, epoch, plain.Weights(h, plain.Between(g, n, level, cell)), children)
 			wantMatrix(t, "Up", g, n, m, e, level, cell, epoch, right[at][cell].D...)
 		}
 	}
@@ -86,11 +87,11 @@ func wantPlain(t *testing.T, g, h api.Graph, n api.Nest, epoch int) {
 
 // Promises 13.1 to 13.5: all graphs of up to three vertices with all nests of up to two levels.
 func TestAll(t *testing.T) {
-	draw := noise()
+	draw := plain.Noise()
 	for n := 1; n < 4; n++ {
-		for _, x := range allNests(n) {
-			for _, g := range allGraphs(draw, n) {
-				wantPlain(t, g, reweighed(draw, g), x, draw(5))
+		for _, x := range plain.Nests(n) {
+			for _, g := range plain.Graphs(draw, n) {
+				wantPlain(t, g, plain.Reweighed(draw, g), x, draw(5))
 			}
 		}
 	}
@@ -98,12 +99,12 @@ func TestAll(t *testing.T) {
 
 // Promises 13.1 to 13.5, W5: of nests that were drawn and of nests that were made.
 func TestAgainstPlain(t *testing.T) {
-	draw := noise()
+	draw := plain.Noise()
 	for n := 1; n < 26; n++ {
 		for _, most := range []int{0, 3, 1 << 20} {
-			g := drawn(draw, n, draw(4*n+1), most)
-			h := reweighed(draw, g)
-			wantPlain(t, g, h, drawnNest(draw, n, 1+draw(api.MaxLevels)), draw(1000))
+			g := plain.Graph(draw, n, draw(4*n+1), most)
+			h := plain.Reweighed(draw, g)
+			wantPlain(t, g, h, plain.Nest(draw, n, 1+draw(api.MaxLevels)), draw(1000))
 			made, e := nest.Make(g, []int{1 + n/4, 2 + n/2, n + 2}, []int{draw(n), draw(n)}, draw(5))
 			wantOK(t, "Make", e)
 			wantPlain(t, g, h, made, api.MaxTicks)
@@ -113,24 +114,24 @@ func TestAgainstPlain(t *testing.T) {
 
 // Promise 13.3: matrices whose distances are not right, too: of no zero on the diagonal, of detours within, of lengths up to Inf.
 func TestUpOfAnyMatrices(t *testing.T) {
-	draw := noise()
+	draw := plain.Noise()
 	for n := 2; n < 22; n++ {
 		for range 100 {
-			g, x := drawn(draw, n, draw(3*n+1), 1<<20), drawnNest(draw, n, 2+draw(3))
-			h := reweighed(draw, g)
+			g, x := plain.Graph(draw, n, draw(3*n+1), 1<<20), plain.Nest(draw, n, 2+draw(3))
+			h := plain.Reweighed(draw, g)
 			level := 2 + draw(len(x.Cells)-1)
-			cell := draw(plainMany(x, level))
+			cell := draw(plain.Many(x, level))
 			var children []api.Matrix
-			for _, child := range plainChildren(x, level, cell) {
-				b := len(plainBoundary(g, x, level-1, child))
+			for _, child := range plain.Children(x, level, cell) {
+				b := len(plain.Boundary(g, x, level-1, child))
 				m := api.Matrix{Level: level - 1, Cell: child, Epoch: draw(8), D: make([]api.Dist, b*b)}
 				for i := range m.D {
-					m.D[i] = drawnDist(draw)
+					m.D[i] = plain.Dist(draw)
 				}
 				children = append(children, m)
 			}
-			m, e := Up(g, x, level, cell, 7, plainWeights(h, plainBetween(g, x, level, cell)), children)
-			wantMatrix(t, "Up", g, x, m, e, level, cell, 7, plainUp(h, x, level, cell, children)...)
+			m, e := Up(g, x, level, cell, 7, plain.Weights(h, plain.Between(g, x, level, cell)), children)
+			wantMatrix(t, "Up", g, x, m, e, level, cell, 7, plain.Up(h, x, level, cell, children)...)
 			if t.Failed() {
 				t.Fatal(g, x, children)
 			}
@@ -141,7 +142,7 @@ func TestUpOfAnyMatrices(t *testing.T) {
 // Promise 13.3: lengths just below Inf, at it and beyond; a member of a row is that of its own column, and the diagonal is 0 whatever the children say.
 func TestUpAtInf(t *testing.T) {
 	g := api.Graph{N: 4, Arcs: []api.Arc{{From: 3, To: 0}, {From: 1, To: 2}, {From: 2, To: 3}}}
-	n := cells([]int{2, 3}, []int{0, 0, 1, 2}, []int{0, 0, 0, 1})
+	n := plain.Cells([]int{2, 3}, []int{0, 0, 1, 2}, []int{0, 0, 0, 1})
 	for _, x := range []struct {
 		there, back api.Dist
 		weight      uint32
@@ -161,13 +162,13 @@ func climb(t *testing.T, g api.Graph, n api.Nest) [][]api.Matrix {
 	t.Helper()
 	all := make([][]api.Matrix, len(n.Cells))
 	for at := range all {
-		for cell := range plainMany(n, at+1) {
+		for cell := range plain.Many(n, at+1) {
 			var m api.Matrix
 			var e api.Errno
 			if at == 0 {
-				m, e = Leaf(g, n, cell, 0, plainWeights(g, plainInner(g, n, 1, cell)))
+				m, e = Leaf(g, n, cell, 0, plain.Weights(g, plain.Inner(g, n, 1, cell)))
 			} else {
-				m, e = Up(g, n, at+1, cell, at, plainWeights(g, plainBetween(g, n, at+1, cell)), chosen(all[at-1], plainChildren(n, at+1, cell)))
+				m, e = Up(g, n, at+1, cell, at, plain.Weights(g, plain.Between(g, n, at+1, cell)), plain.Chosen(all[at-1], plain.Children(n, at+1, cell)))
 			}
 			wantOK(t, "a matrix", e)
 			all[at] = append(all[at], m)
@@ -178,15 +179,15 @@ func climb(t *testing.T, g api.Graph, n api.Nest) [][]api.Matrix {
 
 // Promise 13.5: what follows, from the answers alone.
 func TestFollows(t *testing.T) {
-	draw := noise()
+	draw := plain.Noise()
 	for n := 1; n < 40; n++ {
 		for range 3 {
-			g, x := reweighed(draw, drawn(draw, n, draw(4*n+1), 0)), drawnNest(draw, n, 1+draw(api.MaxLevels))
+			g, x := plain.Reweighed(draw, plain.Graph(draw, n, draw(4*n+1), 0)), plain.Nest(draw, n, 1+draw(api.MaxLevels))
 			for at, level := range climb(t, g, x) {
 				for cell, m := range level {
 					whole, e := Whole(g, x, at+1, cell, at)
 					wantMatrix(t, "Whole and what is made of children", g, x, m, e, at+1, cell, at, whole.D...)
-					wantOver(t, m, len(plainBoundary(g, x, at+1, cell)))
+					wantOver(t, m, len(plain.Boundary(g, x, at+1, cell)))
 				}
 			}
 			if t.Failed() {
@@ -202,7 +203,7 @@ func wantOver(t *testing.T, m api.Matrix, b int) {
 	for from := range b {
 		for to := range b {
 			for over := range b {
-				if m.D[from*b+to] > plainAdd(m.D[from*b+over], m.D[over*b+to]) {
+				if m.D[from*b+to] > plain.Add(m.D[from*b+over], m.D[over*b+to]) {
 					t.Error("a shorter walk over", over, m)
 				}
 			}
@@ -216,7 +217,7 @@ func wantOver(t *testing.T, m api.Matrix, b int) {
 // great is as great as a graph may be, with a cell of nearly all vertices, each of them on its boundary, at each of two levels.
 func great() (api.Graph, api.Nest) {
 	const most = api.MaxVertices - 2
-	draw := noise()
+	draw := plain.Noise()
 	g, low, high := api.Graph{N: api.MaxVertices}, make([]int, api.MaxVertices), make([]int, api.MaxVertices)
 	low[most], low[most+1], high[most+1] = 1, 2, 1
 	for v := range most {
@@ -228,28 +229,28 @@ func great() (api.Graph, api.Nest) {
 	for len(g.Arcs) < api.MaxArcs {
 		g.Arcs = append(g.Arcs, api.Arc{From: draw(most), To: draw(most), Weight: uint32(draw(1000))})
 	}
-	return g, cells([]int{most, most + 1}, low, high)
+	return g, plain.Cells([]int{most, most + 1}, low, high)
 }
 
 // Promises 13.1 to 13.4, P1: matrices of more members than api.MaxItems, as great as they may be.
 func TestGreatest(t *testing.T) {
 	g, n := great()
-	all := plainBoundary(g, n, 2, 0)
+	all := plain.Boundary(g, n, 2, 0)
 	b := len(all)
 	if b*b <= api.MaxItems {
 		t.Fatal("the boundary is too small:", b)
 	}
-	low, e := Leaf(g, n, 0, 1, plainWeights(g, plainInner(g, n, 1, 0)))
+	low, e := Leaf(g, n, 0, 1, plain.Weights(g, plain.Inner(g, n, 1, 0)))
 	other, e2 := Leaf(g, n, 1, 0, nil)
-	high, e3 := Up(g, n, 2, 0, 1, plainWeights(g, plainBetween(g, n, 2, 0)), []api.Matrix{low, other})
+	high, e3 := Up(g, n, 2, 0, 1, plain.Weights(g, plain.Between(g, n, 2, 0)), []api.Matrix{low, other})
 	whole, e4 := Whole(g, n, 2, 0, 1)
 	wantOK(t, "the greatest matrices", e, e2, e3, e4, Check(g, n, low), Check(g, n, high), Check(g, n, whole))
 	if !slices.Equal(high.D, whole.D) {
 		t.Error("Up is not Whole")
 	}
-	lowWays, highWays := plainArcs(g, plainInner(g, n, 1, 0)), plainArcs(g, plainInner(g, n, 2, 0))
+	lowWays, highWays := plain.Ways(g, plain.Inner(g, n, 1, 0)), plain.Ways(g, plain.Inner(g, n, 2, 0))
 	for _, row := range []int{0, 99, 512, b - 1} {
-		farLow, farHigh := plainFar(g.N, lowWays, all[row]), plainFar(g.N, highWays, all[row])
+		farLow, farHigh := plain.Far(g.N, lowWays, all[row]), plain.Far(g.N, highWays, all[row])
 		for column, v := range all {
 			if low.D[row*b+column] != farLow[v] || whole.D[row*b+column] != farHigh[v] {
 				t.Fatal("from", all[row], "to", v)
@@ -262,33 +263,33 @@ func TestGreatest(t *testing.T) {
 
 // Promises 13.2 to 13.4, P1: as many cells as there may be, and the greatest graphs of other shapes.
 func TestGreatestOfManyCells(t *testing.T) {
-	draw := noise()
-	for _, g := range []api.Graph{drawn(draw, api.MaxVertices, api.MaxArcs, 1<<20), {N: api.MaxVertices}, {N: api.MaxVertices, Arcs: make([]api.Arc, api.MaxArcs)}, {N: 1, Arcs: make([]api.Arc, api.MaxArcs)}} {
+	draw := plain.Noise()
+	for _, g := range []api.Graph{plain.Graph(draw, api.MaxVertices, api.MaxArcs, 1<<20), {N: api.MaxVertices}, {N: api.MaxVertices, Arcs: make([]api.Arc, api.MaxArcs)}, {N: 1, Arcs: make([]api.Arc, api.MaxArcs)}} {
 		high := make([]int, g.N)
 		for v := range high {
 			high[v] = v * 3 / g.N
 		}
-		n := cells([]int{1, 400, 1024}, count(g.N), plainTidy(high), make([]int, g.N))
+		n := plain.Cells([]int{1, 400, 1024}, plain.Count(g.N), plain.Tidy(high), make([]int, g.N))
 		var leaves []api.Matrix
 		for v := range g.N {
-			m, e := Leaf(g, n, v, 0, plainWeights(g, plainInner(g, n, 1, v)))
-			wantMatrix(t, "Leaf", g, n, m, e, 1, v, 0, plainWhole(g, n, 1, v)...)
+			m, e := Leaf(g, n, v, 0, plain.Weights(g, plain.Inner(g, n, 1, v)))
+			wantMatrix(t, "Leaf", g, n, m, e, 1, v, 0, plain.Whole(g, n, 1, v)...)
 			leaves = append(leaves, m)
 		}
 		var middle []api.Matrix
-		for cell := range plainMany(n, 2) {
-			m, e := Up(g, n, 2, cell, 0, plainWeights(g, plainBetween(g, n, 2, cell)), chosen(leaves, plainChildren(n, 2, cell)))
-			wantMatrix(t, "Up", g, n, m, e, 2, cell, 0, plainWhole(g, n, 2, cell)...)
+		for cell := range plain.Many(n, 2) {
+			m, e := Up(g, n, 2, cell, 0, plain.Weights(g, plain.Between(g, n, 2, cell)), plain.Chosen(leaves, plain.Children(n, 2, cell)))
+			wantMatrix(t, "Up", g, n, m, e, 2, cell, 0, plain.Whole(g, n, 2, cell)...)
 			middle = append(middle, m)
 		}
-		m, e := Up(g, n, 3, 0, 0, plainWeights(g, plainBetween(g, n, 3, 0)), middle)
+		m, e := Up(g, n, 3, 0, 0, plain.Weights(g, plain.Between(g, n, 3, 0)), middle)
 		wantMatrix(t, "Up of all", g, n, m, e, 3, 0, 0)
 	}
 }
 
 // Promise 13.1: matrices that may not be, whatever else is right about them.
 func TestCheck(t *testing.T) {
-	g, n := rounds()
+	g, n := plain.Rounds()
 	for at, level := range plainLevels(g, n, 3) {
 		for _, m := range level {
 			right := m
@@ -301,16 +302,16 @@ func TestCheck(t *testing.T) {
 				m.Epoch = epoch
 				wantErrno(t, "an epoch", Check(g, n, m), api.OK)
 			}
-			for _, epoch := range wrongEpochs() {
+			for _, epoch := range plain.WrongEpochs() {
 				m.Epoch = epoch
 				wantErrno(t, "no epoch", Check(g, n, m), api.ErrMatrix)
 			}
 			m = right
-			for _, m.Level = range append(wrongNumbers(), 0, 4, 5, 6) {
+			for _, m.Level = range append(plain.WrongNumbers(), 0, 4, 5, 6) {
 				wantErrno(t, "no level", Check(g, n, m), api.ErrMatrix)
 			}
 			m = right
-			for _, m.Cell = range append(wrongNumbers(), plainMany(n, at+1), g.N) {
+			for _, m.Cell = range append(plain.WrongNumbers(), plain.Many(n, at+1), g.N) {
 				wantErrno(t, "no cell", Check(g, n, m), api.ErrMatrix)
 			}
 			m = right
@@ -327,7 +328,7 @@ func TestCheck(t *testing.T) {
 // Promise 13.1, R3: a cell without a boundary has a matrix without members.
 func TestNoBoundary(t *testing.T) {
 	g := api.Graph{N: 3, Arcs: []api.Arc{{From: 0, To: 2, Weight: 1}, {From: 2, To: 0, Weight: 1}, {From: 1, To: 1}}}
-	n := cells([]int{2, 3}, []int{0, 1, 0}, []int{0, 0, 0})
+	n := plain.Cells([]int{2, 3}, []int{0, 1, 0}, []int{0, 0, 0})
 	for _, none := range [][]api.Dist{nil, {}} {
 		children := []api.Matrix{{Level: 1, Cell: 0, D: none}, {Level: 1, Cell: 1, D: none}}
 		for _, weights := range [][]uint32{nil, {}} {
@@ -348,20 +349,20 @@ func TestNoBoundary(t *testing.T) {
 
 // Promises 13.2 to 13.4, R1, R5: levels and cells that there are not, ahead of what else is wrong.
 func TestWrongPlaces(t *testing.T) {
-	g, n := rounds()
-	for _, epoch := range append(wrongEpochs(), 0) {
+	g, n := plain.Rounds()
+	for _, epoch := range append(plain.WrongEpochs(), 0) {
 		for _, weights := range [][]uint32{nil, {1, 2}, make([]uint32, api.MaxItems+1)} {
-			for _, level := range append(wrongNumbers(), 0, 4, 5, 6) {
-				for _, cell := range append(wrongNumbers(), 0, 1) {
+			for _, level := range append(plain.WrongNumbers(), 0, 4, 5, 6) {
+				for _, cell := range append(plain.WrongNumbers(), 0, 1) {
 					wantRefusedPlace(t, g, n, level, cell, epoch, weights, api.ErrLevel)
 				}
 			}
 			for at := range n.Cells {
-				for _, cell := range append(wrongNumbers(), plainMany(n, at+1), g.N) {
+				for _, cell := range append(plain.WrongNumbers(), plain.Many(n, at+1), g.N) {
 					wantRefusedPlace(t, g, n, at+1, cell, epoch, weights, api.ErrCell)
 				}
 			}
-			for cell := range plainMany(n, 1) {
+			for cell := range plain.Many(n, 1) {
 				m, e := Up(g, n, 1, cell, epoch, weights, nil)
 				wantNone(t, "Up of the level 1", m, e, api.ErrLevel)
 			}
@@ -386,7 +387,7 @@ func wantRefusedPlace(t *testing.T, g api.Graph, n api.Nest, level, cell, epoch 
 
 // Promises 13.2 to 13.4, R1, R5: epochs from the least to the greatest, and others, ahead of weights and matrices that are wrong.
 func TestEpochs(t *testing.T) {
-	g, n := rounds()
+	g, n := plain.Rounds()
 	right := plainLevels(g, n, 0)
 	for _, epoch := range []int{0, 1, api.MaxTicks - 1, api.MaxTicks} {
 		m, e := Leaf(g, n, 1, epoch, []uint32{4})
@@ -396,7 +397,7 @@ func TestEpochs(t *testing.T) {
 		m, e = Whole(g, n, 3, 0, epoch)
 		wantMatrix(t, "Whole", g, n, m, e, 3, 0, epoch, right[2][0].D...)
 	}
-	for _, epoch := range wrongEpochs() {
+	for _, epoch := range plain.WrongEpochs() {
 		for _, weights := range [][]uint32{nil, {4}, {1, 3, 0}, make([]uint32, api.MaxItems+1)} {
 			m, e := Leaf(g, n, 1, epoch, weights)
 			wantNone(t, "Leaf", m, e, api.ErrRange)
@@ -412,7 +413,7 @@ func TestEpochs(t *testing.T) {
 
 // Promises 13.2, 13.3, R1, R5: other numbers of weights, also of more than any list may have, ahead of matrices that are wrong.
 func TestWrongWeights(t *testing.T) {
-	g, n := rounds()
+	g, n := plain.Rounds()
 	right := plainLevels(g, n, 0)
 	for _, many := range []int{0, 1, 2, 3, 4, len(g.Arcs), api.MaxItems, api.MaxItems + 1} {
 		// Spare room is none of a list's members, even if it would make their number right.
@@ -436,7 +437,7 @@ func TestWrongWeights(t *testing.T) {
 
 // Promise 13.3, R5: matrices that are not those of the children, at all places.
 func TestWrongChildren(t *testing.T) {
-	g, n := rounds()
+	g, n := plain.Rounds()
 	weights, right := []uint32{1, 3, 0}, plainLevels(g, n, 0)[0][:2]
 	want := func(name string, epoch int, e api.Errno, children ...api.Matrix) {
 		t.Helper()
@@ -444,7 +445,7 @@ func TestWrongChildren(t *testing.T) {
 		if e != api.OK {
 			wantNone(t, name, m, got, e)
 		} else {
-			wantMatrix(t, name, g, n, m, got, 2, 0, epoch, plainWhole(g, n, 2, 0)...)
+			wantMatrix(t, name, g, n, m, got, 2, 0, epoch, plain.Whole(g, n, 2, 0)...)
 		}
 	}
 	a, b := right[0], right[1]
@@ -482,18 +483,18 @@ func TestWrongChildren(t *testing.T) {
 
 // Promise 13.4, R1, R5: ids that are none, and too many of them, whatever they are.
 func TestWeights(t *testing.T) {
-	draw := noise()
-	g := drawn(draw, 9, 50, 1<<20)
+	draw := plain.Noise()
+	g := plain.Graph(draw, 9, 50, 1<<20)
 	for range 40 {
 		var arcs []int
 		for range draw(100) {
 			arcs = append(arcs, draw(50))
 		}
-		if l, e := Weights(g, arcs); e != api.OK || !slices.Equal(l, plainWeights(g, arcs)) {
+		if l, e := Weights(g, arcs); e != api.OK || !slices.Equal(l, plain.Weights(g, arcs)) {
 			t.Error(arcs, l, e)
 		}
 	}
-	for _, wrong := range append(wrongNumbers(), len(g.Arcs)) {
+	for _, wrong := range append(plain.WrongNumbers(), len(g.Arcs)) {
 		for _, arcs := range [][]int{{wrong}, {0, 1, wrong}, {wrong, 0}, append(make([]int, api.MaxItems-1), wrong)} {
 			l, e := Weights(g, arcs)
 			wantNoWeights(t, "no id", l, e, api.ErrNone)
@@ -515,20 +516,9 @@ func TestWeights(t *testing.T) {
 
 // R1, R2, R5: all calls but Weights answer what chapter 11's Check refuses, ahead of what else is wrong.
 func TestWrongNests(t *testing.T) {
-	g := api.Graph{N: 4, Arcs: []api.Arc{{From: 0, To: 1}, {From: 1, To: 2}, {From: 3, To: 3}}}
-	whole, halves := make([]int, 4), []int{0, 0, 1, 1}
-	for _, n := range []api.Nest{
-		{}, {Bounds: []int{4}}, {Cells: [][]int{whole}}, cells([]int{1, 2, 3, 4, 5, 6}, count(4), count(4), count(4), count(4), count(4), count(4)),
-		cells([]int{0}, whole), cells([]int{api.MaxVertices + 1}, whole), cells([]int{2, 2}, halves, halves), cells([]int{2, 4, 3}, halves, whole, whole),
-		cells([]int{4}, nil), cells([]int{4}, whole[1:]), cells([]int{4}, []int{0, 2, 1, 1}), cells([]int{4}, []int{0, -1, 0, 0}), cells([]int{4, 5}, whole, make([]int, 5)),
-		cells([]int{3}, whole), cells([]int{2, 3}, halves, whole), cells([]int{2, 3}, halves, []int{0, 1, 1, 1}), cells([]int{2, 3, 4}, halves, halves, []int{0, 0, 0, 1}),
-	} {
-		_, want := nest.Check(g, n)
-		if want == api.OK {
-			t.Fatal(n)
-		}
-		wantRefused(t, g, n, want)
-		if l, e := Weights(g, []int{0}); e != api.OK || len(l) != 1 {
+	for _, x := range plain.WrongNests() {
+		wantRefused(t, x.G, x.N, x.Want)
+		if l, e := Weights(x.G, []int{0}); e != api.OK || len(l) != 1 {
 			t.Error("Weights has no nest:", l, e)
 		}
 	}
@@ -536,20 +526,11 @@ func TestWrongNests(t *testing.T) {
 
 // R1, R2, R5: all calls answer what chapter 3's Check refuses, ahead of what else is wrong.
 func TestWrongGraphs(t *testing.T) {
-	for _, x := range []struct {
-		g    api.Graph
-		want api.Errno
-	}{
-		{api.Graph{}, api.ErrRange}, {api.Graph{N: math.MinInt}, api.ErrRange}, {api.Graph{N: api.MaxVertices + 1}, api.ErrRange}, {api.Graph{N: math.MaxInt}, api.ErrRange},
-		{api.Graph{N: 2, Arcs: make([]api.Arc, api.MaxArcs+1)}, api.ErrLong}, {api.Graph{N: 2, Arcs: []api.Arc{{From: 0, To: 1}, {From: 0, To: 2}}}, api.ErrArc},
-		{api.Graph{N: 2, Arcs: []api.Arc{{From: -1, To: 0}}}, api.ErrArc}, {api.Graph{N: 2, Arcs: []api.Arc{{From: math.MaxInt, To: math.MinInt}}}, api.ErrArc},
-	} {
-		for _, n := range []api.Nest{{}, cells([]int{2}, []int{0, 0}), cells([]int{1}, []int{0, 1}), cells([]int{0}, []int{0, 1}), cells([]int{2, 3}, []int{0, 0}, []int{0, 1}), cells([]int{1024}, make([]int, 1025))} {
-			wantRefused(t, x.g, n, x.want)
-		}
+	for _, x := range plain.WrongGraphs() {
+		wantRefused(t, x.G, x.N, x.Want)
 		for _, arcs := range [][]int{nil, {0}, {-1}, {math.MaxInt}, make([]int, api.MaxItems+1)} {
-			l, e := Weights(x.g, arcs)
-			wantNoWeights(t, "Weights", l, e, x.want)
+			l, e := Weights(x.G, arcs)
+			wantNoWeights(t, "Weights", l, e, x.Want)
 		}
 	}
 }
@@ -571,7 +552,7 @@ func wantRefused(t *testing.T, g api.Graph, n api.Nest, want api.Errno) {
 
 // R4: what is handed in stays as it was, spare room too, what lies there is not read, and answers are new memory.
 func TestMemory(t *testing.T) {
-	g, n := rounds()
+	g, n := plain.Rounds()
 	right := plainLevels(g, n, 0)
 	bad := api.Arc{From: -7, To: -7, Weight: 7}
 	arcs := append(g.Arcs, bad, bad)
@@ -630,16 +611,16 @@ func TestMemory(t *testing.T) {
 
 // R7: the same call tells the same, whatever was called ahead, and whatever room lies behind the lists.
 func TestTellsTheSame(t *testing.T) {
-	draw := noise()
+	draw := plain.Noise()
 	same := func(a, b []api.Matrix) bool {
 		return slices.EqualFunc(a, b, func(a, b api.Matrix) bool { return a.Epoch == b.Epoch && slices.Equal(a.D, b.D) })
 	}
 	for range 20 {
 		n := 4 + draw(40)
-		g, x := drawn(draw, n, 3*n, 100), drawnNest(draw, n, 3)
+		g, x := plain.Graph(draw, n, 3*n, 100), plain.Nest(draw, n, 3)
 		first := climb(t, g, x)
 		for range 3 {
-			climb(t, drawn(draw, n, n, 5), drawnNest(draw, n, 2))
+			climb(t, plain.Graph(draw, n, n, 5), plain.Nest(draw, n, 2))
 			h := api.Graph{N: n, Arcs: slices.Grow(slices.Clone(g.Arcs), 1+draw(9))}
 			if again := climb(t, h, x); !slices.EqualFunc(first, again, same) {
 				t.Fatal(first, again)
@@ -655,19 +636,7 @@ func FuzzClique(f *testing.F) {
 	f.Add(0, -1, 9, -1, []byte{255, 3}, []byte{255}, []byte{255})
 	f.Add(2, 5, -1, api.MaxTicks+1, []byte{}, []byte{0, 1, 0, 1, 0, 1, 0, 1, 0, 0}, []byte{})
 	f.Fuzz(func(t *testing.T, n, level, cell, epoch int, ends, numbers, dists []byte) {
-		n %= 24
-		g := api.Graph{N: n}
-		for i := 0; i+2 < len(ends) && len(g.Arcs) < 100; i += 3 {
-			g.Arcs = append(g.Arcs, api.Arc{From: int(ends[i]) % max(n, 1), To: int(ends[i+1]) % max(n, 1), Weight: uint32(ends[i+2])})
-		}
-		var x api.Nest
-		for at := n; n > 0 && at <= len(numbers) && at <= api.MaxLevels*n; at += n {
-			labels := make([]int, n)
-			for v := range labels {
-				labels[v] = int(numbers[at-n+v])
-			}
-			x.Bounds, x.Cells = append(x.Bounds, n+len(x.Bounds)), append(x.Cells, plainTidy(labels))
-		}
+		g, x := plain.Read(n, ends, numbers)
 		m := api.Matrix{Level: level, Cell: cell, Epoch: epoch}
 		for _, d := range dists {
 			m.D = append(m.D, api.Dist(d))
@@ -688,12 +657,12 @@ func fuzzed(t *testing.T, g api.Graph, n api.Nest, m api.Matrix) {
 		wantErrno(t, "Check", Check(g, n, m), api.ErrMatrix)
 		return
 	}
-	if m.Cell < 0 || m.Cell >= plainMany(n, m.Level) {
+	if m.Cell < 0 || m.Cell >= plain.Many(n, m.Level) {
 		wantRefusedPlace(t, g, n, m.Level, m.Cell, m.Epoch, nil, api.ErrCell)
 		wantErrno(t, "Check", Check(g, n, m), api.ErrMatrix)
 		return
 	}
-	b, want := len(plainBoundary(g, n, m.Level, m.Cell)), api.ErrMatrix
+	b, want := len(plain.Boundary(g, n, m.Level, m.Cell)), api.ErrMatrix
 	if m.Epoch >= 0 && m.Epoch <= api.MaxTicks && len(m.D) == b*b {
 		want = api.OK
 	}
@@ -702,9 +671,9 @@ func fuzzed(t *testing.T, g api.Graph, n api.Nest, m api.Matrix) {
 		return
 	}
 	parent := n.Cells[m.Level][slices.Index(n.Cells[m.Level-1], m.Cell)]
-	cells := plainChildren(n, m.Level+1, parent)
-	children := chosen(plainLevels(g, n, 0)[m.Level-1], cells)
+	cells := plain.Children(n, m.Level+1, parent)
+	children := plain.Chosen(plainLevels(g, n, 0)[m.Level-1], cells)
 	children[slices.Index(cells, m.Cell)] = m
-	up, e := Up(g, n, m.Level+1, parent, m.Epoch, plainWeights(g, plainBetween(g, n, m.Level+1, parent)), children)
-	wantMatrix(t, "Up", g, n, up, e, m.Level+1, parent, m.Epoch, plainUp(g, n, m.Level+1, parent, children)...)
+	up, e := Up(g, n, m.Level+1, parent, m.Epoch, plain.Weights(g, plain.Between(g, n, m.Level+1, parent)), children)
+	wantMatrix(t, "Up", g, n, up, e, m.Level+1, parent, m.Epoch, plain.Up(g, n, m.Level+1, parent, children)...)
 }
