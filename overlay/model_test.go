@@ -38,35 +38,6 @@ func plainLate(o [][]api.Matrix) int {
 	return slices.Max(epochs)
 }
 
-// copied shares no memory with o.
-func copied(o [][]api.Matrix) [][]api.Matrix {
-	var all [][]api.Matrix
-	for _, l := range o {
-		l = slices.Clone(l)
-		for at := range l {
-			l[at].D = slices.Clone(l[at].D)
-		}
-		all = append(all, l)
-	}
-	return all
-}
-
-// shaken is an overlay of drawn epochs and of distances that are mostly not right.
-func shaken(draw func(int) int, o [][]api.Matrix, epoch int) [][]api.Matrix {
-	all := copied(o)
-	for _, l := range all {
-		for at := range l {
-			l[at].Epoch = draw(epoch + 1)
-			for i := range l[at].D {
-				if draw(3) > 0 {
-					l[at].D[i] = plain.Dist(draw)
-				}
-			}
-		}
-	}
-	return all
-}
-
 func wantOK(t *testing.T, name string, all ...api.Errno) {
 	t.Helper()
 	for _, e := range all {

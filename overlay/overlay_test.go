@@ -53,7 +53,7 @@ func TestLevels(t *testing.T) {
 		for _, id := range x.arcs {
 			h.Arcs[id].Weight = 1
 		}
-		want, all := copied(o), 0
+		want, all := plain.Copied(o), 0
 		for at, cells := range x.want {
 			for _, cell := range cells {
 				want[at][cell].Epoch, want[at][cell].D = 6, plain.Whole(h, n, at+1, cell)
@@ -73,7 +73,7 @@ func wantPlain(t *testing.T, draw func(int) int, g, h api.Graph, n api.Nest, epo
 	t.Helper()
 	o, e := All(g, n, epoch)
 	wantOverlay(t, "All", g, n, o, e, plain.Overlay(g, n, epoch))
-	for _, old := range [][][]api.Matrix{o, shaken(draw, o, epoch)} {
+	for _, old := range [][][]api.Matrix{o, plain.Shaken(draw, o, epoch)} {
 		for _, many := range []int{0, 1, 2, 2 * len(g.Arcs)} {
 			var arcs []int
 			for len(g.Arcs) > 0 && len(arcs) < many {
@@ -195,29 +195,11 @@ func TestBetweenLastCells(t *testing.T) {
 	}
 }
 
-// great is as great as a graph may be: a grid, in which each vertex has arcs to and from those beside it, and some that stand twice.
-func great(draw func(int) int) api.Graph {
-	const side = 32
-	g := api.Graph{N: side * side}
-	for v := range g.N {
-		for _, to := range []int{v + 1, v + side} {
-			if to < g.N && (to != v+1 || to%side > 0) {
-				g.Arcs = append(g.Arcs, api.Arc{From: v, To: to, Weight: uint32(draw(1000))}, api.Arc{From: to, To: v, Weight: uint32(draw(1000))})
-			}
-		}
-	}
-	for len(g.Arcs) < api.MaxArcs {
-		g.Arcs = append(g.Arcs, g.Arcs[draw(len(g.Arcs))])
-		g.Arcs[len(g.Arcs)-1].Weight = math.MaxUint32
-	}
-	return g
-}
-
 // Promises 14.1 to 14.5, P1: the greatest graphs, with as many levels as there may be, and with cells of one vertex each.
 func TestGreatest(t *testing.T) {
 	draw := plain.Noise()
 	for _, bounds := range [][]int{{16, 64, 128, 256, 1024}, {1, 700}} {
-		g := great(draw)
+		g := plain.Great(draw)
 		x, e := nest.Make(g, bounds, nil, 0)
 		wantOK(t, "Make", e)
 		o, e := All(g, x, api.MaxTicks-1)
@@ -283,63 +265,11 @@ func TestGreatestOfOtherShapes(t *testing.T) {
 	wantErrno(t, "one member less", Check(star, n, o), api.ErrMatrix)
 }
 
-// wrongOverlays are none, each by one thing.
-func wrongOverlays(g api.Graph, n api.Nest) [][][]api.Matrix {
-	right := plain.Overlay(g, n, 3)
-	wrong := [][][]api.Matrix{nil, {}, {nil}, make([][]api.Matrix, len(right)), right[1:], right[:len(right)-1], append(slices.Clone(right), nil), append(slices.Clone(right), right[0]), make([][]api.Matrix, api.MaxItems+1)}
-	// Spare room is no part of a list, even if it would make it right.
-	short := copied(right)
-	short[0] = short[0][:len(short[0])-1]
-	wrong = append(wrong, short)
-	for at, l := range right {
-		for _, list := range [][]api.Matrix{nil, l[1:], append(slices.Clone(l), l[0]), append(slices.Clone(l), api.Matrix{Level: at + 1, Cell: len(l)}), slices.Repeat(l, api.MaxItems)} {
-			o := slices.Clone(right)
-			o[at] = list
-			wrong = append(wrong, o)
-		}
-		if len(l) > 1 {
-			o := copied(right)
-			o[at][0], o[at][1] = o[at][1], o[at][0]
-			wrong = append(wrong, o)
-		}
-		for cell, m := range l {
-			for _, other := range wrongMatrices(m) {
-				o := copied(right)
-				o[at][cell] = other
-				wrong = append(wrong, o)
-			}
-		}
-	}
-	return append(wrong, [][]api.Matrix{right[0], right[0], right[0]}, [][]api.Matrix{right[2], right[1], right[0]})
-}
-
-// wrongMatrices may not stand in a matrix's place, whatever else is right about them.
-func wrongMatrices(m api.Matrix) []api.Matrix {
-	var wrong []api.Matrix
-	for _, epoch := range plain.WrongEpochs() {
-		wrong = append(wrong, api.Matrix{Level: m.Level, Cell: m.Cell, Epoch: epoch, D: m.D})
-	}
-	for _, number := range append(plain.WrongNumbers(), 0, 1, 2, 3, 4, 5, 6) {
-		if number != m.Level {
-			wrong = append(wrong, api.Matrix{Level: number, Cell: m.Cell, D: m.D})
-		}
-		if number != m.Cell {
-			wrong = append(wrong, api.Matrix{Level: m.Level, Cell: number, D: m.D})
-		}
-	}
-	for _, many := range []int{0, 1, 2, 3, 4, 5, 8, 9, 10, 16, api.MaxItems + 1} {
-		if many != len(m.D) {
-			wrong = append(wrong, api.Matrix{Level: m.Level, Cell: m.Cell, D: make([]api.Dist, many, many+20)})
-		}
-	}
-	return wrong
-}
-
 // Promises 14.2 to 14.4, R1, R5: what is no overlay, ahead of arcs and epochs that are wrong.
 func TestWrongOverlays(t *testing.T) {
 	g, n := plain.Rounds()
 	wantErrno(t, "right", Check(g, n, plain.Overlay(g, n, 3)), api.OK)
-	for _, o := range wrongOverlays(g, n) {
+	for _, o := range plain.WrongOverlays(g, n) {
 		wantErrno(t, "Check", Check(g, n, o), api.ErrMatrix)
 		late, e := Late(g, n, o)
 		wantNone(t, "Late", nil, late, e, api.ErrMatrix)
@@ -358,7 +288,7 @@ func TestCheckTakes(t *testing.T) {
 	for n := 1; n < 20; n++ {
 		g, x := plain.Graph(draw, n, draw(4*n), 9), plain.Nest(draw, n, 1+draw(api.MaxLevels))
 		for _, most := range []int{0, 5, api.MaxTicks} {
-			o := shaken(draw, plain.Overlay(g, x, 0), most)
+			o := plain.Shaken(draw, plain.Overlay(g, x, 0), most)
 			wantErrno(t, "any distances", Check(g, x, o), api.OK)
 			if late, e := Late(g, x, o); e != api.OK || late != plainLate(o) {
 				t.Error("Late", late, e)
@@ -639,7 +569,7 @@ func TestTellsTheSame(t *testing.T) {
 		n := 4 + draw(40)
 		g, x := plain.Graph(draw, n, 3*n, 100), plain.Nest(draw, n, 3)
 		first, e := All(g, x, 1)
-		old, arcs := shaken(draw, first, 1), []int{draw(n), draw(n)}
+		old, arcs := plain.Shaken(draw, first, 1), []int{draw(n), draw(n)}
 		renewed, many, e2 := Renew(g, x, old, arcs, 2)
 		wantOK(t, "the first answers", e, e2)
 		for range 3 {
@@ -648,7 +578,7 @@ func TestTellsTheSame(t *testing.T) {
 			clear(other)
 			h := api.Graph{N: n, Arcs: slices.Grow(slices.Clone(g.Arcs), 1+draw(9))}
 			again, e := All(h, x, 1)
-			anew, number, e2 := Renew(h, x, copied(old), slices.Grow(slices.Clone(arcs), 5), 2)
+			anew, number, e2 := Renew(h, x, plain.Copied(old), slices.Grow(slices.Clone(arcs), 5), 2)
 			wantOK(t, "the same again", e, e2)
 			if !sameOverlay(first, again) || !sameOverlay(renewed, anew) || many != number {
 				t.Fatal(first, again, renewed, anew)
