@@ -239,14 +239,8 @@ func wantWhole(t *testing.T, g api.Graph, n api.Nest, o [][]api.Matrix) {
 // Promises 14.1 to 14.4, P1: the greatest graphs of other shapes, and a matrix of more members than api.MaxItems.
 func TestGreatestOfOtherShapes(t *testing.T) {
 	draw := plain.Noise()
-	star := api.Graph{N: api.MaxVertices}
-	for v := 1; v < star.N; v++ {
-		star.Arcs = append(star.Arcs, api.Arc{From: v, To: 0, Weight: uint32(v)})
-	}
-	for _, g := range []api.Graph{star, {N: api.MaxVertices}, {N: api.MaxVertices, Arcs: make([]api.Arc, api.MaxArcs)}, {N: 1, Arcs: make([]api.Arc, api.MaxArcs)}, plain.Graph(draw, 64, api.MaxArcs, math.MaxInt32)} {
-		low := slices.Repeat([]int{1}, g.N)
-		low[0] = 0
-		n := plain.Cells([]int{api.MaxVertices - 1, api.MaxVertices}, low, make([]int, g.N))
+	for _, g := range plain.Shapes(draw) {
+		n := plain.Lopsided(g.N)
 		o, e := All(g, n, 0)
 		wantOK(t, "All", e, Check(g, n, o))
 		r, many, e := Renew(g, n, o, plain.Count(len(g.Arcs)), 0)
@@ -256,7 +250,8 @@ func TestGreatestOfOtherShapes(t *testing.T) {
 		}
 		wantWhole(t, g, n, r)
 	}
-	n := plain.Cells([]int{api.MaxVertices - 1}, append([]int{0}, slices.Repeat([]int{1}, star.N-1)...))
+	star := plain.Star(draw)
+	n := plain.Lopsided(star.N)
 	o, _ := All(star, n, 0)
 	if len(o[0][1].D) != (api.MaxVertices-1)*(api.MaxVertices-1) {
 		t.Error(len(o[0][1].D))
@@ -437,24 +432,9 @@ func TestNoMembers(t *testing.T) {
 
 // R4: what is handed in stays as it was, spare room too, what lies there is not read, and answers are new memory.
 func TestMemory(t *testing.T) {
-	g, n := plain.Rounds()
-	bad := api.Arc{From: -7, To: -7, Weight: 7}
-	g.Arcs = append(g.Arcs, bad, bad)[:len(g.Arcs)]
-	n.Bounds = append(n.Bounds, -1, 9)[:3]
-	n.Cells = append(n.Cells, []int{9})[:3]
-	for at, l := range n.Cells {
-		n.Cells[at] = append(l, -9, 7)[:6]
-	}
+	g, n, old := plain.Roomy(2)
 	arcs := []int{3, 7, -1, 99}
-	old := append(plain.Overlay(g, n, 2), []api.Matrix{{Level: 9}})[:3]
-	for at, l := range old {
-		for cell, m := range l {
-			l[cell].D = append(m.D, 5, 6)[:len(m.D)]
-		}
-		old[at] = append(l, api.Matrix{Level: -1})[:len(l)]
-	}
-	in := func() [][]uint64 { return handedIn(g, n, old, arcs) }
-	were := in()
+	were, arcsWere := plain.Numbers(g, n, old), slices.Clone(arcs)
 	var answers [][][]api.Matrix
 	for range 2 {
 		all, e := All(g, n, 4)
@@ -479,38 +459,9 @@ func TestMemory(t *testing.T) {
 		}
 		clear(o[:cap(o)])
 	}
-	if !slices.EqualFunc(were, in(), slices.Equal) {
+	if !slices.EqualFunc(were, plain.Numbers(g, n, old), slices.Equal) || !slices.Equal(arcs, arcsWere) {
 		t.Error("what was handed in is changed")
 	}
-}
-
-// handedIn are all numbers of the arguments, those in spare room too.
-func handedIn(g api.Graph, n api.Nest, o [][]api.Matrix, arcs []int) [][]uint64 {
-	var all [][]uint64
-	add := func(l []int) {
-		var numbers []uint64
-		for _, x := range l[:cap(l)] {
-			numbers = append(numbers, uint64(x))
-		}
-		all = append(all, numbers)
-	}
-	for _, a := range g.Arcs[:cap(g.Arcs)] {
-		add([]int{a.From, a.To, int(a.Weight)})
-	}
-	add(n.Bounds)
-	for _, l := range n.Cells[:cap(n.Cells)] {
-		add(l)
-	}
-	add(arcs)
-	for _, l := range o[:cap(o)] {
-		for _, m := range l[:cap(l)] {
-			add([]int{m.Level, m.Cell, m.Epoch, len(m.D)})
-			for _, d := range m.D[:cap(m.D)] {
-				all = append(all, []uint64{uint64(d)})
-			}
-		}
-	}
-	return all
 }
 
 // wantApart asks that no list of an answer shares memory with an argument, or with another one of it.

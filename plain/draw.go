@@ -25,24 +25,6 @@ func Graph(draw func(int) int, n, many, most int) api.Graph {
 	return g
 }
 
-// Great is as great as a graph may be: a grid, in which each vertex has arcs to and from those beside it, and some that stand twice.
-func Great(draw func(int) int) api.Graph {
-	const side = 32
-	g := api.Graph{N: side * side}
-	for v := range g.N {
-		for _, to := range []int{v + 1, v + side} {
-			if to < g.N && (to != v+1 || to%side > 0) {
-				g.Arcs = append(g.Arcs, api.Arc{From: v, To: to, Weight: uint32(draw(1000))}, api.Arc{From: to, To: v, Weight: uint32(draw(1000))})
-			}
-		}
-	}
-	for len(g.Arcs) < api.MaxArcs {
-		g.Arcs = append(g.Arcs, g.Arcs[draw(len(g.Arcs))])
-		g.Arcs[len(g.Arcs)-1].Weight = math.MaxUint32
-	}
-	return g
-}
-
 // Reweighed is g with other weights, some of them as great as weights may be.
 func Reweighed(draw func(int) int, g api.Graph) api.Graph {
 	h := api.Graph{N: g.N, Arcs: slices.Clone(g.Arcs)}

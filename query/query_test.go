@@ -187,30 +187,11 @@ func TestGreatest(t *testing.T) {
 	}
 }
 
-// long is a way there and back with the greatest weights, so that a distance is as great as it may be.
-func long() api.Graph {
-	g := api.Graph{N: api.MaxVertices}
-	for v := range g.N - 1 {
-		g.Arcs = append(g.Arcs, api.Arc{From: v, To: v + 1, Weight: math.MaxUint32}, api.Arc{From: v + 1, To: v, Weight: math.MaxUint32})
-	}
-	return g
-}
-
 // Promises 15.1 to 15.4, P1: the greatest graphs of other shapes, the greatest distances, and a matrix of more members than api.MaxItems.
 func TestGreatestOfOtherShapes(t *testing.T) {
 	draw := plain.Noise()
-	star := api.Graph{N: api.MaxVertices}
-	for v := 1; v < star.N; v++ {
-		star.Arcs = append(star.Arcs, api.Arc{From: v, To: 0, Weight: uint32(v)}, api.Arc{From: 0, To: v, Weight: uint32(draw(9))})
-	}
-	for _, g := range []api.Graph{star, long(), {N: api.MaxVertices}, {N: api.MaxVertices, Arcs: make([]api.Arc, api.MaxArcs)}, {N: 1, Arcs: make([]api.Arc, api.MaxArcs)}, plain.Graph(draw, 64, api.MaxArcs, math.MaxInt32)} {
-		low := slices.Repeat([]int{1}, g.N)
-		low[0] = 0
-		halves := make([]int, g.N)
-		for v := range halves {
-			halves[v] = 2 * v / g.N
-		}
-		for _, n := range []api.Nest{plain.Cells([]int{api.MaxVertices - 1, api.MaxVertices}, low, make([]int, g.N)), plain.Cells([]int{1, 512, 1024}, plain.Count(g.N), halves, make([]int, g.N))} {
+	for _, g := range plain.Shapes(draw) {
+		for _, n := range []api.Nest{plain.Lopsided(g.N), plain.Halved(g.N)} {
 			o, e := overlay.All(g, n, 0)
 			wantOK(t, "All", e)
 			for range 20 {
@@ -220,7 +201,7 @@ func TestGreatestOfOtherShapes(t *testing.T) {
 			wantNear(t, g, n, o, g.N-1, 0)
 		}
 	}
-	way := long()
+	way := plain.Long()
 	n := plain.Cells([]int{1}, plain.Count(way.N))
 	o, e := overlay.All(way, n, 0)
 	wantOK(t, "All", e)
@@ -428,24 +409,9 @@ func TestNoMembers(t *testing.T) {
 
 // R4: what is handed in stays as it was, spare room too, what lies there is not read, and answers are new memory.
 func TestMemory(t *testing.T) {
-	g, n := plain.Rounds()
-	bad := api.Arc{From: -7, To: -7, Weight: 7}
-	g.Arcs = append(g.Arcs, bad, bad)[:len(g.Arcs)]
-	n.Bounds = append(n.Bounds, -1, 9)[:3]
-	n.Cells = append(n.Cells, []int{9})[:3]
-	for at, l := range n.Cells {
-		n.Cells[at] = append(l, -9, 7)[:6]
-	}
-	o := append(plain.Overlay(g, n, 2), []api.Matrix{{Level: 9}})[:3]
-	for at, l := range o {
-		for cell, m := range l {
-			l[cell].D = append(m.D, 0, 0)[:len(m.D)]
-		}
-		o[at] = append(l, api.Matrix{Level: -1})[:len(l)]
-	}
+	g, n, o := plain.Roomy(2)
 	weights, there, back := []uint32{2, 9, 7, 0, 0}, []api.Dist{0, 2, 0, 0}, []api.Dist{4, 0, 0, 0}
-	in := func() [][]uint64 { return handedIn(g, n, o, weights, there, back) }
-	were := in()
+	were, weightsWere, thereWas, backWas := plain.Numbers(g, n, o), slices.Clone(weights), slices.Clone(there), slices.Clone(back)
 	var answers [][]api.Dist
 	for range 2 {
 		d, e := Dist(g, n, o, 0, 3)
@@ -467,43 +433,9 @@ func TestMemory(t *testing.T) {
 		}
 		clear(l[:cap(l)])
 	}
-	if !slices.EqualFunc(were, in(), slices.Equal) {
+	if !slices.EqualFunc(were, plain.Numbers(g, n, o), slices.Equal) || !slices.Equal(weights, weightsWere) || !slices.Equal(there, thereWas) || !slices.Equal(back, backWas) {
 		t.Error("what was handed in is changed")
 	}
-}
-
-// handedIn are all numbers of the arguments, those in spare room too.
-func handedIn(g api.Graph, n api.Nest, o [][]api.Matrix, weights []uint32, pieces ...[]api.Dist) [][]uint64 {
-	var all [][]uint64
-	add := func(l ...int) {
-		var numbers []uint64
-		for _, x := range l[:cap(l)] {
-			numbers = append(numbers, uint64(x))
-		}
-		all = append(all, numbers)
-	}
-	for _, a := range g.Arcs[:cap(g.Arcs)] {
-		add(a.From, a.To, int(a.Weight))
-	}
-	add(n.Bounds...)
-	for _, l := range n.Cells[:cap(n.Cells)] {
-		add(l...)
-	}
-	for _, w := range weights[:cap(weights)] {
-		add(int(w))
-	}
-	for _, l := range o[:cap(o)] {
-		for _, m := range l[:cap(l)] {
-			add(m.Level, m.Cell, m.Epoch, len(m.D))
-			pieces = append(pieces, m.D)
-		}
-	}
-	for _, l := range pieces {
-		for _, d := range l[:cap(l)] {
-			all = append(all, []uint64{uint64(d)})
-		}
-	}
-	return all
 }
 
 // R7: the same call tells the same, whatever was called ahead, and whatever room lies behind the lists.
